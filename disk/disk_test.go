@@ -164,14 +164,14 @@ func TestLimitLast(t *testing.T) {
 	check(t, "Limit above MaxDisk", d, "abcdefg"+text(api.MaxDisk-7), 3, false)
 }
 
-// P8.1 Limit, P8.2 Append: a room below what is there already. All stays there; nothing more has room.
+// P8.1 Limit, P8.2 Append: a room below what is there already. All stays there; no byte more has room.
 func TestLimitBelowWhatIsThere(t *testing.T) {
 	for _, room := range []int{math.MinInt, -1, 0, 1, 2, 3, 4} {
 		d := filled(t, 9, "abc", "de")
 		d.Limit(room)
 		what := fmt.Sprint("Limit ", room)
 		check(t, what, d, "abcde", 3, false)
-		write(t, d, "", api.ErrFull)
+		write(t, d, "", api.OK)
 		write(t, d, "f", api.ErrFull)
 		write(t, d, text(api.MaxDisk), api.ErrFull)
 		check(t, what+", Append", d, "abcde", 3, false)
@@ -190,7 +190,8 @@ func TestLimitThenCut(t *testing.T) {
 	d := filled(t, 9, "abc", "de")
 	d.Limit(3)
 	d.Cut(4)
-	write(t, d, "", api.ErrFull)
+	write(t, d, "", api.OK)
+	write(t, d, "x", api.ErrFull)
 	d.Cut(3)
 	write(t, d, "", api.OK)
 	write(t, d, "x", api.ErrFull)
@@ -416,12 +417,9 @@ func TestLimitWhenOff(t *testing.T) {
 		d.Crash(0)
 		check(t, what+", Crash", d, "ab", 2, false)
 		write(t, d, text(max(more+1, 1)), api.ErrFull)
-		if more < 0 {
-			write(t, d, "", api.ErrFull)
-			continue
-		}
-		write(t, d, text(more), api.OK)
-		check(t, what+", as much as fits", d, "ab"+text(more), 2, false)
+		fits := text(max(more, 0))
+		write(t, d, fits, api.OK)
+		check(t, what+", as much as fits", d, "ab"+fits, 2, false)
 	}
 }
 
@@ -498,7 +496,8 @@ func TestCrashKeepsRoom(t *testing.T) {
 	d.Limit(2)
 	d.Crash(9)
 	check(t, "room 2", d, "abcx", 4, false)
-	write(t, d, "", api.ErrFull)
+	write(t, d, "", api.OK)
+	write(t, d, "y", api.ErrFull)
 }
 
 // P8.3 Crash: twice behind one another, with bytes between them and without.
@@ -568,7 +567,7 @@ func TestCutIsAway(t *testing.T) {
 
 // DOC.md, Rules: nil and empty are one.
 func TestNilIsEmpty(t *testing.T) {
-	for _, none := range [][]byte{nil, {}, make([]byte, 0, 10)} {
+	for _, none := range nothings() {
 		d := filled(t, 3, "ab", "c")
 		d.Fuse(0)
 		if e := d.Append(none); e != api.OK {
@@ -581,6 +580,105 @@ func TestNilIsEmpty(t *testing.T) {
 	}
 	if len(New(5).Bytes()) != 0 {
 		t.Error("Bytes of nothing")
+	}
+}
+
+// nothings lists what has no bytes: nil, empty, and empty with spare room.
+func nothings() [][]byte { return [][]byte{nil, {}, make([]byte, 0, 10), []byte("abc")[1:1]} }
+
+// checkNothing tells whether Append of nothing is OK and changes nothing on a disk that isn't OFF and has more
+// than its room: neither what it shows, nor that a byte has no room.
+func checkNothing(t *testing.T, what string, d *Disk) {
+	t.Helper()
+	held, safe := string(d.Bytes()), d.Safe()
+	for _, none := range nothings() {
+		if e := d.Append(none); e != api.OK {
+			t.Errorf("%s: Append of nothing = %d, want %d", what, e, api.OK)
+		}
+		check(t, what+", Append of nothing", d, held, safe, false)
+		write(t, d, "x", api.ErrFull)
+		write(t, d, text(api.MaxDisk+1), api.ErrFull)
+		check(t, what+", Append without room", d, held, safe, false)
+	}
+}
+
+// P8.2 Append of nothing where the Limit lies below what is there: nothing needs no room, whatever is SAFE of it.
+func TestNothingBelowLimit(t *testing.T) {
+	for _, room := range []int{math.MinInt, -1, 0, 1, 2, 3, 4} {
+		for safe := range 6 {
+			d := filled(t, 9, "abcde"[:safe], "abcde"[safe:])
+			d.Limit(room)
+			checkNothing(t, fmt.Sprintf("Limit %d, %d safe", room, safe), d)
+		}
+	}
+	d := New(api.MaxDisk)
+	write(t, d, text(api.MaxDisk), api.OK)
+	d.Limit(0)
+	checkNothing(t, "a whole disk", d)
+	d.Limit(api.MaxDisk - 1)
+	checkNothing(t, "a whole disk, one byte less room", d)
+}
+
+// P8.2 Append of nothing below a Limit leaves the fuse as it was, a fuse of 0 too.
+func TestNothingBelowLimitFused(t *testing.T) {
+	for _, fuse := range []int{0, 1, 3} {
+		d := filled(t, 9, "abc", "de")
+		d.Fuse(fuse)
+		d.Limit(2)
+		what := fmt.Sprint("fuse ", fuse)
+		checkNothing(t, what, d)
+		d.Limit(20)
+		write(t, d, text(fuse), api.OK)
+		write(t, d, "x", api.ErrPower)
+		check(t, what+", all of it", d, "abcde"+text(fuse), 3, true)
+	}
+	for _, fuse := range []int{math.MinInt, -1, math.MaxInt} {
+		d := filled(t, 9, "abc", "de")
+		d.Fuse(fuse)
+		d.Limit(2)
+		checkNothing(t, fmt.Sprint("fuse ", fuse), d)
+		d.Limit(20)
+		write(t, d, text(15), api.OK)
+	}
+}
+
+// P8.2 Append of nothing behind a Crash, or a Cut, that leaves more than the Limit.
+func TestNothingBehindCrashAndCut(t *testing.T) {
+	for room := range 3 {
+		what := fmt.Sprint("Limit ", room)
+		d := filled(t, 9, "abc", "de")
+		d.Limit(room)
+		d.Crash(1)
+		check(t, what+", Crash", d, "abcd", 4, false)
+		checkNothing(t, what+", Crash", d)
+		d.Cut(3)
+		check(t, what+", Crash and Cut", d, "abc", 3, false)
+		checkNothing(t, what+", Crash and Cut", d)
+
+		d = filled(t, 9, "abc", "de")
+		d.Limit(room)
+		d.Cut(4)
+		check(t, what+", Cut", d, "abcd", 3, false)
+		checkNothing(t, what+", Cut", d)
+		d.Crash(0)
+		check(t, what+", Cut and Crash", d, "abc", 3, false)
+		checkNothing(t, what+", Cut and Crash", d)
+	}
+}
+
+// P8.2 Append of nothing when OFF is ErrPower, also below a Limit; behind the Crash it is OK again.
+func TestNothingBelowLimitWhenOff(t *testing.T) {
+	for room := -1; room < 2; room++ {
+		d := dark(t)
+		d.Limit(room)
+		for _, none := range nothings() {
+			if e := d.Append(none); e != api.ErrPower {
+				t.Errorf("Limit %d: Append of nothing when OFF = %d, want %d", room, e, api.ErrPower)
+			}
+			check(t, "OFF", d, "abcd", 2, true)
+		}
+		d.Crash(0)
+		checkNothing(t, "behind the Crash", d)
 	}
 }
 
@@ -707,7 +805,7 @@ func (p *plain) write(b string) api.Errno {
 	if p.off {
 		return 82
 	}
-	if len(p.places)+len(b) > p.room {
+	if len(b) > 0 && len(p.places)+len(b) > p.room {
 		return 81
 	}
 	for i := range len(b) {
